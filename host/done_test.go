@@ -125,7 +125,31 @@ func TestBusy(t *testing.T) {
 	w.got(a.says(release(1, 4, 0)), a.told(), b.told(grant(1, all, 4, values(1, all)...)))
 }
 
-// P19.3: a Busy by which two wait for each other: the greater one has to give way, and the other one is told what that frees.
+// P19.3: what a Busy leads to is told by it: a Grant to the client itself, which was passed by till it said something, and a
+// Fail to another one that waits in a ring then.
+func TestBusyTells(t *testing.T) {
+	w := filled(t, 6)
+	a, b := w.meets(0, 1), w.meets(1, 1)
+	w.reads(a, 1)
+	w.got(a.says(release(1, 8, 0)), a.told())
+	w.got(b.says(askWrite(1, 2)), b.told(), a.told(call(1, 2, true)))
+	// It isn't known yet what client 0 has of that page.
+	w.got(a.says(askRead(1, 3)), a.told())
+	w.got(a.says(busy(1, 2, true)), a.told(grant(1, all, 0, values(1, all)...)))
+	w.has(0, 1, all, 0)
+
+	w = filled(t, 6)
+	a, b = w.meets(0, 1), w.meets(1, 1)
+	w.owns(a, 1)
+	w.owns(b, 2)
+	w.got(a.says(askWrite(2, 0)), a.told(), b.told(call(2, 0, true)))
+	w.got(b.says(askWrite(1, 0)), b.told(), a.told(call(1, 0, true)))
+	w.got(b.says(busy(2, 0, true)), b.told())
+	w.got(a.says(busy(1, 0, true)), a.told(), b.told(fail(0, api.ErrDeadlock)))
+	w.got(b.says(release(2, 1, all)), b.told(), a.told(grant(2, all, 1, values(2, all)...)))
+}
+
+// P19.3: an ask by which two wait for each other: the greater one has to give way, and the other one is told what that frees.
 func TestDeadlock(t *testing.T) {
 	w := filled(t, 6)
 	a, b := w.meets(0, 1), w.meets(1, 1)
